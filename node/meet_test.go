@@ -10,6 +10,7 @@ import (
 	"steelyard/api"
 	"steelyard/flow"
 	"steelyard/geneve"
+	"steelyard/life"
 	"steelyard/node"
 	"steelyard/pool"
 	"steelyard/tuple"
@@ -192,9 +193,26 @@ func (f *fleet) tick(t testing.TB) {
 		waited := x.Waiting()
 		r := x.Tick()
 		f.saw(t, i, 0, waited, r)
+		f.issued(t, i)
 	}
 	now := f.nodes[0].Now()
 	f.grants = slices.DeleteFunc(f.grants, func(g granted) bool { return g.Until < now })
+}
+
+// issued fails unless what a replica knows is some of what was ever made, joined: P5 of replicas.
+func (f *fleet) issued(t testing.TB, i int) {
+	t.Helper()
+	for backend, r := range f.nodes[i].Pool().All() {
+		var some life.Rec
+		for _, u := range f.made {
+			if u.Backend == backend && life.Within(u.Rec, r) {
+				some, _ = life.Join(some, u.Rec)
+			}
+		}
+		if !life.Same(some, r) {
+			t.Fatalf("%d knows of %d %v, of which was made %v", i, backend, r, some)
+		}
+	}
 }
 
 func (f *fleet) round(t testing.TB) {
